@@ -286,6 +286,19 @@ func TestCommitWaits(t *testing.T) {
 		ask(t, b, end(2, 1, true), api.Reply{A: 2})
 		ask(t, b, commit(1, 1, 1, 2, 0, 0, 3), api.Reply{})
 	}
+	// Likewise for the other input, which the other member has.
+	for p := 2; p <= 5; p++ {
+		b := grouped(t)
+		ask(t, b, data(1, "a"), api.Reply{})
+		ask(t, b, start(2), api.Reply{A: 1})
+		ask(t, b, add(2, 1, 4+8+16+32), api.Reply{})
+		ask(t, b, put(p, 2, 1, 0, "x"), api.Reply{})
+		e := api.OK
+		if p == 3 || p == 5 {
+			e = api.ErrWait
+		}
+		fail(t, b, commit(1, 1, 2, 2, 1, 0, 1), e)
+	}
 }
 
 func TestGroup(t *testing.T) {

@@ -152,7 +152,15 @@ func TestFile(t *testing.T) {
 func TestSave(t *testing.T) {
 	one, two := []api.Got{counters(0, 1)}, []api.Got{counters(2, 2), there(3, 1, 0)}
 	d, _ := disk.New(99)
-	for _, name := range []string{"", "a.b", "A", "x_", strings.Repeat("n", 17), "a b"} {
+	for _, name := range []string{"a", "z", "0", "9", "-"} {
+		if e := cleaner.Save(d, name, one); e != api.OK || d.Remove(name) != api.OK {
+			t.Error(name, e)
+		}
+	}
+	if cleaner.Most != 4096 || cleaner.New != ".new" {
+		t.Error(cleaner.Most, cleaner.New)
+	}
+	for _, name := range []string{"", "a.b", "A", "x_", strings.Repeat("n", 17), "a b", "`", "{", "/", ":"} {
 		if e := cleaner.Save(d, name, one); e != api.ErrArg {
 			t.Error(name, e)
 		}

@@ -249,14 +249,58 @@ func TestPower(t *testing.T) {
 	if x.Up(0) || !x.Disk().Off() {
 		t.Error("it is up")
 	}
-	do(t, x, api.OK, api.StepFuse, 7)
-	if k, ok := x.Rest(-1); k != 0 || ok || x.Up(0) {
-		t.Error(k, ok)
-	}
 	do(t, x, api.OK, api.StepStart, 0)
-	input(t, x, 0, rec(1, 1, 1))
-	for range 9 { // the fuse is none
-		input(t, x, 1, rec(1, 1, 1))
+	// A rest, even of no rounds, takes the fuse away.
+	for _, rounds := range []int{-1, 0} {
+		do(t, x, api.OK, api.StepFuse, 3)
+		if k, ok := x.Rest(rounds); k != 0 || ok && rounds < 0 {
+			t.Error(k, ok)
+		}
+		for range 9 {
+			input(t, x, 1, rec(1, 1, 1))
+		}
+	}
+}
+
+// TestKeep: a crash keeps what it is told to, and a start does so only if the power is off.
+func TestKeep(t *testing.T) {
+	for _, keep := range []int{0, 99} {
+		x := fresh(t, config())
+		do(t, x, api.OK, api.StepFuse, 1)
+		if e := x.Do(api.Step{Kind: api.StepInput, L: []api.Record{rec(1, 1, 1)}}); e != api.ErrPower {
+			t.Error(e)
+		}
+		x.Do(api.Step{Kind: api.StepCrash, Keep: []int{keep}})
+		if f := x.Disk().Files(); x.Disk().Off() || f[0].Loose != "" || (f[0].Sure != "") != (keep > 0) {
+			t.Error(f)
+		}
+		do(t, x, api.OK, api.StepStart, 0)
+		if n := x.Broker().Part(0).End(); n != min(keep, 1) {
+			t.Error(n)
+		}
+	}
+}
+
+// TestNumbers: at the end of all numbers a worker has no request any more, and none starts.
+func TestNumbers(t *testing.T) {
+	c := config()
+	c.Workers = 1
+	x := fresh(t, c)
+	for range 1<<20 - 1 {
+		x.Do(api.Step{Kind: api.StepKill, N: 1})
+		x.Do(api.Step{Kind: api.StepBegin, N: 1})
+	}
+	do(t, x, api.OK, api.StepServe, 1)
+	if a := waits(t, x, 0); a.ID != api.MaxNum {
+		t.Fatal(a)
+	}
+	do(t, x, api.OK, api.StepDeliver, 0)
+	do(t, x, api.OK, api.StepDeliver, 0)
+	do(t, x, api.ErrRange, api.StepServe, 1)
+	do(t, x, api.OK, api.StepLeave, 1)
+	do(t, x, api.ErrArg, api.StepBegin, 1)
+	if x.Up(1) || len(x.Packets()) != 0 {
+		t.Error(x.Packets())
 	}
 }
 

@@ -200,6 +200,32 @@ func TestBetter(t *testing.T) {
 	}
 }
 
+// TestBetterEnds: behind 4096 changes it ends, even if there is more to do.
+func TestBetterEnds(t *testing.T) {
+	const n = 1000
+	var l []api.Instr
+	for i := range n {
+		l = append(l, jump(i+2))
+	}
+	l = append(l, key)
+	// A jump goes on by two at each change, and the next one is changed only when it is at the end.
+	want, left := slices.Clone(l), 4096
+	for i := range n {
+		steps := min(left, (n-1-(i+2))/2+1)
+		if i+2 >= n {
+			steps = 0
+		}
+		want[i].N += 2 * steps
+		left -= steps
+	}
+	if left != 0 {
+		t.Fatal(left)
+	}
+	if got, e := code.Better(l); !slices.Equal(got, want) || e != api.OK {
+		t.Error(e)
+	}
+}
+
 // ways tries all ways through code, and tells whether it may be.
 func ways(l []api.Instr) bool {
 	heights := map[int]map[int]bool{}

@@ -85,6 +85,12 @@ func TestInit(t *testing.T) {
 	for _, pid := range []int{0, 9, -1, math.MaxInt} {
 		start(t, c, pid, 0, api.ErrArg)
 	}
+	for _, pid := range []int{1, 8} {
+		start(t, c, pid, 1, api.OK)
+		want(t, "Add", c.Add(pid, 1, 1), api.OK)
+		end(t, c, pid, 1, true, false, api.OK)
+		complete(t, c, pid, 2, api.OK)
+	}
 	start(t, c, 3, 1, api.OK)
 	start(t, c, 3, 2, api.OK)
 	want(t, "Add", c.Add(3, 1, 1), api.ErrFenced)

@@ -30,6 +30,7 @@ func TestLook(t *testing.T) {
 	odd := []api.Prod{
 		{PID: 5, Epoch: 1, Seq: 4, N: -7, Base: 9}, {PID: 3, Epoch: 2, Seq: math.MaxInt, N: math.MaxInt},
 		{PID: 5, Epoch: 9, Seq: 1, N: 1, Base: 1}, {PID: 1, Epoch: math.MaxInt}, {PID: 2, Epoch: -4, Seq: 6, N: 2, Base: -3},
+		{PID: 6, Epoch: 1, Seq: 4, N: 0, Base: 5},
 	}
 	for i, x := range []struct {
 		l    []api.Prod
@@ -63,6 +64,8 @@ func TestLook(t *testing.T) {
 		{odd, txn(5, 1, 0, 1), 0, false, api.OK}, // the first row of a producer holds, and with N below 0 there is no batch
 		{odd, txn(5, 1, 4, 1), 0, false, api.ErrSeq},
 		{odd, txn(5, 2, 0, 1), 0, false, api.OK},
+		{odd, txn(6, 1, 0, 1), 0, false, api.OK}, // nor with N 0
+		{odd, txn(6, 1, 4, 1), 0, false, api.ErrSeq},
 		{odd, txn(3, 2, 0, 1), 0, false, api.ErrSeq},
 		{odd, txn(1, 9, 0, 1), 0, false, api.ErrFenced},
 		{odd, txn(2, 1, 6, 2), 0, false, api.ErrSeq}, // of a greater epoch

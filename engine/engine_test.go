@@ -167,6 +167,8 @@ func TestWrong(t *testing.T) {
 		func(s *api.State) { s.L[0].A = api.Agg{} },
 		func(s *api.State) { s.L[1], s.L[2] = s.L[2], s.L[1] },
 		func(s *api.State) { s.L[1] = s.L[2] },
+		func(s *api.State) { s.L[1] = s.L[0] },
+		func(s *api.State) { s.L[0], s.L[1] = s.L[1], s.L[0] },
 		func(s *api.State) { s.L[0], s.L[3] = s.L[3], s.L[0] },
 		func(s *api.State) {
 			s.L = nil

@@ -20,6 +20,12 @@ var right = []api.Grid{
 	{Size: 10, Hop: 5, Late: 2}, {Size: 1, Hop: 1}, {Size: 8, Hop: 1}, {Size: 80, Hop: 10, Late: grid.Limit}, {Size: grid.Limit, Hop: grid.Limit}, {Size: grid.Limit, Hop: grid.Limit / 8}, {Size: 6, Hop: 2, Late: 7},
 }
 
+func TestLimits(t *testing.T) {
+	if grid.Most != 8 || grid.Limit != 1048576 {
+		t.Error(grid.Most, grid.Limit)
+	}
+}
+
 func TestCheck(t *testing.T) {
 	for _, g := range wrong {
 		if e := grid.Check(g); e != api.ErrArg {

@@ -184,6 +184,16 @@ func TestTick(t *testing.T) {
 			t.Error(i)
 		}
 	}
+	// A beat alone is heard, too.
+	join(t, g, 3, 4, 7)
+	for i := 1; i <= 17; i++ {
+		if g.Tick() != (i == 17) {
+			t.Error(i)
+		}
+		if i == 5 {
+			want(t, "Beat", g.Beat(4, 7), api.OK)
+		}
+	}
 }
 
 func TestNil(t *testing.T) {

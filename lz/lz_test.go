@@ -49,10 +49,13 @@ func TestUnpack(t *testing.T) {
 			t.Errorf("%.30q, %d: %.30q %d", x.s, x.most, u, e)
 		}
 	}
+	if lz.Least != 4 || lz.Far != 4096 || lz.Most != 1048576 {
+		t.Error(lz.Least, lz.Far, lz.Most)
+	}
 	long := strings.Repeat("x", 5000)
 	for _, back := range []int{4096, 4097} {
 		u, e := lz.Unpack(varint.Put(10000)+long+piece(1, back), 9000)
-		if (e == api.OK) != (back <= lz.Far) || e == api.OK && len(u) != 5004 {
+		if (e == api.OK) != (back == 4096) || e == api.OK && len(u) != 5004 {
 			t.Error(back, e)
 		}
 	}

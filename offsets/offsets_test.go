@@ -171,8 +171,10 @@ func TestDone(t *testing.T) {
 
 func TestOpenWrong(t *testing.T) {
 	for _, parts := range []int{0, 5, -1, math.MaxInt} {
-		if o, e := offsets.Open(nil, parts); o != nil || e != api.ErrArg {
-			t.Error(e)
+		for _, d := range []*disk.Disk{nil, fresh(t, 9)} {
+			if o, e := offsets.Open(d, parts); o != nil || e != api.ErrArg {
+				t.Error(e)
+			}
 		}
 	}
 	if o, e := offsets.Open(nil, 1); o != nil || e != api.ErrArg {

@@ -24,6 +24,9 @@ func take(t *testing.T, r api.Rate, l []api.Account, who, n, now, ticks int, w a
 }
 
 func TestCheck(t *testing.T) {
+	if quota.Limit != 1048576 {
+		t.Error(quota.Limit)
+	}
 	for _, x := range []struct {
 		r api.Rate
 		e api.Errno

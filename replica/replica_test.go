@@ -135,8 +135,26 @@ func TestFetch(t *testing.T) {
 	state(t, s, 1, 1, 5, 1, 2, 3)
 	deeds(t, s, put, 6, shrink, 2)
 	state(t, s, 1, 1, 5, 1, 3)
+	// The mark is raised when the one that lags is in sync no more.
+	deeds(t, s, put, 7, fetch, 2)
+	state(t, s, 1, 1, 5, 1, 2, 3)
+	deeds(t, s, shrink, 3)
+	state(t, s, 1, 1, 7, 1, 2)
+	s = fresh(t, 3)
+	deeds(t, s, put, 1, fetch, 2, fail, 1, fail, 3)
+	state(t, s, 0, 1, 0, 1, 2, 3)
+	deeds(t, s, elect, 0) // 2 is alone
+	state(t, s, 2, 2, 1, 2)
+}
+
+func TestFail(t *testing.T) {
+	s := fresh(t, 3)
+	deeds(t, s, put, 1, put, 2, put, 3, put, 4, put, 5, put, 6, fetch, 3, fetch, 3, shrink, 2)
+	state(t, s, 1, 1, 6, 1, 3)
+	deeds(t, s, put, 7)
+	state(t, s, 1, 1, 6, 1, 3)
 	deeds(t, s, fail, 3)
-	state(t, s, 1, 1, 6, 1)
+	state(t, s, 1, 1, 7, 1)
 }
 
 func TestElect(t *testing.T) {

@@ -120,6 +120,40 @@ func TestWindows(t *testing.T) {
 	}
 }
 
+// TestMany has so many windows that the hundredth part of them is one, and more keys than tallies are kept.
+func TestMany(t *testing.T) {
+	x, _, _, _ := script.Parse(one)
+	x.C.Most = 64
+	var l []api.Record
+	for i := range 151 {
+		v := 1
+		if i >= 148 {
+			v = 1000 * (i - 147)
+		}
+		l = append(l, api.Record{Time: 10 * i, Text: varint.Put(v)})
+	}
+	for len(l) > 0 {
+		n := min(len(l), 64)
+		x.L = append(x.L, api.Order{S: api.Step{Kind: api.StepInput, L: l[:n]}})
+		l = l[n:]
+	}
+	x.L = append(x.L, api.Order{Rest: true, Rounds: 3000})
+	s, e := report.Run(x)
+	// Of 150 windows the last one is open yet: 148 sums of 1, then 1000 and 2000.
+	if !strings.HasSuffix(s, "sums: half up to 1, most up to 1023\nkeys: 0 150\n") || e != api.OK {
+		t.Error(s[max(0, len(s)-200):], e)
+	}
+	// The ninth and the tenth key take the places of the smallest ones.
+	put := "input 0: 1 at 0 value 1"
+	for k := 2; k <= 10; k++ {
+		put += ", " + strconv.Itoa(k) + " at 0 value 1"
+	}
+	s = text(t, one+put+", 77 at 10 value 1; rest 99;")
+	if !strings.HasSuffix(s, "keys: 9 2, 10 2, 3 1\n") {
+		t.Error(s)
+	}
+}
+
 func TestRuleFull(t *testing.T) {
 	s := "cluster parts 1 workers 1 blocks 4000 most 64 size 10 hop 10 late 0; alert count > 0 for 1 clear 1;"
 	for k := range 10 {

@@ -99,7 +99,7 @@ func TestParseWrong(t *testing.T) {
 	}{
 		{cluster + ";\nserve;", 2, 6, api.ErrForm},
 		{cluster + ";\nrest 3001;", 0, 0, api.ErrArg},
-		{"", 1, 1, api.ErrForm}, {" # x\n", 2, 1, api.ErrForm}, {"rest 5;", 1, 1, api.ErrForm}, {"cluster", 1, 8, api.ErrForm}, {"cluster;", 1, 8, api.ErrForm}, {"cluster workers 1", 1, 9, api.ErrForm}, {"cluster parts -2", 1, 15, api.ErrForm},
+		{"", 1, 1, api.ErrForm}, {" # x\n", 2, 1, api.ErrForm}, {"rest 5;", 1, 1, api.ErrForm}, {"cluster", 1, 8, api.ErrForm}, {"cluster;", 1, 8, api.ErrForm}, {"cluster workers 1", 1, 9, api.ErrForm}, {"cluster 5", 1, 9, api.ErrForm}, {"cluster parts -2", 1, 15, api.ErrForm},
 		{cluster, 1, 66, api.ErrForm}, {cluster + "\nfoo;", 2, 1, api.ErrForm}, {cluster + "\nquery sticky;", 2, 7, api.ErrForm},
 		{cluster + "\nquery when value >;", 2, 19, api.ErrForm}, {cluster + "\nquery when 1 2;", 2, 14, api.ErrForm}, {cluster + "\nquery key 1 when 2;", 2, 13, api.ErrForm}, {cluster + "\nquery when", 2, 11, api.ErrForm}, {cluster + "\nquery when " + strings.Repeat("-", 33) + "1;", 2, 44, api.ErrFull},
 		{cluster + "\nquery when " + strings.Repeat("1 < 2 + 3 * (", 30) + "4" + strings.Repeat(")", 30) + ";", 0, 0, api.ErrArg},

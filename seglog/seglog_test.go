@@ -62,7 +62,10 @@ func names(d *disk.Disk) string {
 
 func TestOpen(t *testing.T) {
 	d := fresh(t, 100)
-	for _, name := range []string{"", "A", "a.", "a-b", "ninebytes", "a b"} {
+	for _, name := range []string{"a", "z", "0", "9", "az09"} {
+		open(t, d, name)
+	}
+	for _, name := range []string{"", "A", "a.", "a-b", "ninebytes", "a b", "`", "{", "/", ":", "az`", "é"} {
 		if l, e := seglog.Open(d, name); l != nil || e != api.ErrArg {
 			t.Errorf("Open(%q): %d", name, e)
 		}
@@ -177,6 +180,40 @@ func TestSegments(t *testing.T) {
 				}
 			}
 		}
+	}
+}
+
+// TestEdges: a segment is full, and a mark is made, from a number of bytes on, not behind it.
+func TestEdges(t *testing.T) {
+	for bytes := 1022; bytes <= 1026; bytes++ {
+		l := open(t, fresh(t, 1000), "a")
+		put(t, l, bytes-500-9)
+		put(t, l, 500-9)
+		have := l.Segments()[0].Bytes
+		put(t, l, 1)
+		if full := len(l.Segments()) == 2; full != (have >= 1024) {
+			t.Error(have, full)
+		}
+	}
+	for bytes := 252; bytes <= 260; bytes++ {
+		l := open(t, fresh(t, 1000), "a")
+		put(t, l, bytes-9)
+		pos := l.Segments()[0].Bytes
+		put(t, l, 1)
+		if marked := len(l.Marks()) == 2; marked != (pos >= 256) {
+			t.Error(pos, marked)
+		}
+	}
+}
+
+// TestTwo: a log tells what it knows of, not what another one has written to the same files.
+func TestTwo(t *testing.T) {
+	d := fresh(t, 100)
+	l := open(t, d, "a")
+	put(t, l, 5)
+	put(t, open(t, d, "a"), 6)
+	if got, e := l.Fetch(0, 9); len(got) != 1 || e != api.OK || l.Next() != 1 {
+		t.Error(got, e)
 	}
 }
 

@@ -195,6 +195,9 @@ func TestWrong(t *testing.T) {
 			t.Errorf("%d: %v %d", i, n, e)
 		}
 	}
+	if sessions.Limit != 1048576 {
+		t.Error(sessions.Limit)
+	}
 	for _, g := range []api.Gaps{{Gap: -1}, {Late: -1}, {Gap: sessions.Limit + 1}, {Late: sessions.Limit + 1}, {Gap: math.MinInt, Late: math.MaxInt}} {
 		if e := sessions.Check(g, sessions.Zero()); e != api.ErrArg {
 			t.Error(g, e)

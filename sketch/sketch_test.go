@@ -225,16 +225,17 @@ func TestOrder(t *testing.T) {
 		if len(s) == 0 {
 			continue
 		}
-		x := add(t, s)
-		x[0].N = 99
-		x, _ = sketch.Merge(s, nil)
-		x[0].N = 99
-		x, _ = sketch.Merge(nil, s)
-		x[0].N = 99
-		add(t, s, l...)
-		sketch.Add(s[:0], l...)
-		if !slices.Equal(s, given) {
-			t.Fatal("the argument is changed")
+		for i, f := range []func() []api.Bucket{
+			func() []api.Bucket { return add(t, s) },
+			func() []api.Bucket { x, _ := sketch.Merge(s, nil); return x },
+			func() []api.Bucket { x, _ := sketch.Merge(nil, s); return x },
+			func() []api.Bucket { return add(t, s, l...) },
+			func() []api.Bucket { return add(t, s[:1], l...) },
+		} {
+			f()[0].N = 99
+			if !slices.Equal(s, given) {
+				t.Fatal(i, "the argument is changed")
+			}
 		}
 	}
 }

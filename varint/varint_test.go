@@ -120,6 +120,7 @@ func TestText(t *testing.T) {
 	}{
 		{"\x04abc", 2, "ab", "c", api.OK},
 		{"\x04abc", 3, "ab", "c", api.OK},
+		{"\x04ab", 2, "ab", "", api.OK},
 		{"\x04abc", 1, "", "", api.ErrForm},
 		{"\x00abc", 0, "", "abc", api.OK},
 		{"\x00abc", -1, "", "", api.ErrForm},

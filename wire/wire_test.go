@@ -69,6 +69,9 @@ func TestExamples(t *testing.T) {
 		if s, e := wire.EncodeAsk(x.a); s != x.s || e != api.OK {
 			t.Errorf("%x %d", s, e)
 		}
+		if a, e := wire.DecodeAsk(x.s); !reflect.DeepEqual(a, x.a) || e != api.OK {
+			t.Errorf("%v %d", a, e)
+		}
 	}
 	if s, e := wire.EncodeReply(api.Reply{ID: 1, A: 5}); s != "\x02\x00\x0a\x00\x00\x00" || e != api.OK {
 		t.Errorf("%x %d", s, e)

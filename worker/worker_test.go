@@ -386,6 +386,24 @@ func TestErrors(t *testing.T) {
 	}
 }
 
+// TestAgain: what a transaction that failed did not write is not written by the next one.
+func TestAgain(t *testing.T) {
+	for _, phase := range []int{api.PhaseAdd, api.PhasePut, api.PhaseCommit} {
+		w := to(t, phase)
+		hear(t, w, api.Reply{Err: api.ErrFenced})
+		for _, r := range []api.Reply{{A: 5}, {A: 1, Nums: []int{0, 1}}, {A: 0}, {L: got(0, rec(1, 1, 1), rec(1, 1, 1))}} {
+			hear(t, w, r)
+		}
+		at(t, w, api.PhaseAdd, api.Ask{Kind: api.AskAdd, PID: 1, Epoch: 5, Parts: bit + 1<<4})
+		hear(t, w, api.Reply{})
+		if a, _ := w.Ask(); a.B.Seq != 0 || a.B.Epoch != 5 || len(a.B.L) != 2 {
+			t.Error(a)
+		}
+		hear(t, w, api.Reply{})
+		at(t, w, api.PhaseCommit, api.Ask{Kind: api.AskCommit, PID: 1, Epoch: 5, Member: 1, Gen: 1, Off: 2})
+	}
+}
+
 func TestLeave(t *testing.T) {
 	w := fresh(t, 1, config(), 9)
 	if a, ok := w.Leave(); !reflect.DeepEqual(a, api.Ask{}) || ok {
@@ -393,6 +411,11 @@ func TestLeave(t *testing.T) {
 	}
 	hear(t, w, api.Reply{A: 4, B: 1})
 	if a, ok := w.Leave(); !reflect.DeepEqual(a, api.Ask{Kind: api.AskLeave, ID: 10, Member: 4}) || !ok {
+		t.Error(a, ok)
+	}
+	w = fresh(t, 1, config(), api.MaxNum-1)
+	hear(t, w, api.Reply{A: 4, B: 1})
+	if a, ok := w.Leave(); !reflect.DeepEqual(a, api.Ask{Kind: api.AskLeave, ID: api.MaxNum, Member: 4}) || !ok {
 		t.Error(a, ok)
 	}
 	w = fresh(t, 1, config(), api.MaxNum)
