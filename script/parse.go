@@ -1,8 +1,6 @@
 package script
 
 import (
-	"slices"
-
 	"headgate/alert"
 	"headgate/api"
 	"headgate/lex"
@@ -132,10 +130,8 @@ func (p *parser) order() api.Order {
 	if p.passes("rest") {
 		return api.Order{Rest: true, Rounds: p.number()}
 	}
-	list := words()
-	kind := 1 + slices.IndexFunc(list[:], p.passes)
-	s := api.Step{Kind: kind}
-	switch kind {
+	s := api.Step{Kind: p.kind()}
+	switch s.Kind {
 	case 0:
 		p.fail(api.ErrForm)
 	case api.StepInput:
@@ -157,6 +153,16 @@ func (p *parser) order() api.Order {
 		s.N = p.number()
 	}
 	return api.Order{S: s}
+}
+
+// kind passes over the word of a step, and tells its kind; 0: there is none.
+func (p *parser) kind() int {
+	for i, word := range words() {
+		if p.passes(word) {
+			return api.StepInput + i
+		}
+	}
+	return 0
 }
 
 // record reads a record.

@@ -53,7 +53,7 @@ func text(o api.Order) string {
 	if o.Rest {
 		return "rest " + strconv.Itoa(o.Rounds)
 	}
-	word := words()[o.S.Kind-1]
+	word := words()[o.S.Kind-api.StepInput]
 	switch {
 	case o.S.Kind == api.StepInput:
 		return word + " " + strconv.Itoa(o.S.N) + ": " + values(o.S.L)
