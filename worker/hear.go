@@ -12,25 +12,11 @@ func (w *Worker) Hear(r api.Reply) {
 		return
 	}
 	w.id++
-	if r.Err == api.OK && !w.usable(r) {
-		r.Err = api.ErrArg
-	}
 	if r.Err != api.OK {
 		w.phase = w.failed(r.Err)
 		return
 	}
 	w.phase = w.answered(r)
-}
-
-// usable tells whether a reply has numbers that the next requests may have: no broker gives others.
-func (w *Worker) usable(r api.Reply) bool {
-	switch w.phase {
-	case api.PhaseJoin:
-		return number(r.A) && number(r.B)
-	case api.PhaseInit, api.PhaseSync, api.PhaseOffset, api.PhaseEnd:
-		return number(r.A)
-	}
-	return true
 }
 
 // failed tells the phase behind an error.
@@ -121,7 +107,7 @@ func (w *Worker) restore(r api.Reply) int {
 	for _, x := range r.L {
 		w.changes = append(w.changes, x.R)
 	}
-	if r.A > w.read && r.A < r.B && number(r.A) {
+	if r.A > w.read && r.A < r.B {
 		w.read = r.A
 		return api.PhaseRestore
 	}
@@ -162,7 +148,8 @@ func (w *Worker) poll(l []api.Got) int {
 func (w *Worker) take(l []api.Got) []api.Record {
 	var taken []api.Record
 	for _, x := range l {
-		if len(taken) == w.most || x.Off != w.committed+len(taken) || x.Off >= api.MaxNum {
+		// Offsets are compared by their distance: a sum might go beyond the integers.
+		if len(taken) == w.most || x.Off < w.committed || x.Off-w.committed != len(taken) {
 			break
 		}
 		taken = append(taken, x.R)
@@ -192,12 +179,8 @@ func batches(l []api.Record) func(yield func([]api.Record) bool) {
 
 // write goes on to the next batch, or behind the last one.
 func (w *Worker) write() int {
-	switch {
-	case len(w.writes) == 0:
+	if len(w.writes) == 0 {
 		return api.PhaseCommit
-	case w.epoch == 0:
-		// Nobody may write without an epoch, which no broker leaves at 0.
-		return api.PhaseInit
 	}
 	return api.PhasePut
 }

@@ -482,17 +482,132 @@ func TestMemory(t *testing.T) {
 	}
 }
 
-// TestValid: whatever a worker hears, its requests may be.
+// TestNumbers: a reply without an error is taken as one, whatever its numbers are.
+func TestNumbers(t *testing.T) {
+	for _, n := range []int{-1, -99, 0, api.MaxNum, api.MaxNum + 1, math.MaxInt - 1, math.MinInt} {
+		w := to(t, api.PhaseJoin)
+		hear(t, w, api.Reply{A: n, B: 3})
+		at(t, w, api.PhaseInit, api.Ask{Kind: api.AskInit, PID: 1})
+		if a, ok := w.Leave(); ok != (n != 0) || a.Member != n {
+			t.Error(n, a, ok)
+		}
+		hear(t, w, api.Reply{A: n})
+		at(t, w, api.PhaseSync, api.Ask{Kind: api.AskSync, Member: n})
+
+		w = to(t, api.PhaseSync)
+		hear(t, w, api.Reply{A: n})
+		at(t, w, api.PhaseBeat, api.Ask{Kind: api.AskBeat, Member: 1, Gen: n})
+		hear(t, w, api.Reply{A: n, B: n, Nums: []int{n}})
+		at(t, w, api.PhaseSync, api.Ask{Kind: api.AskSync, Member: 1})
+
+		w = to(t, api.PhaseEnd)
+		hear(t, w, api.Reply{A: n})
+		at(t, w, api.PhaseBeat, api.Ask{Kind: api.AskBeat, Member: 1, Gen: 1})
+		if _, k, ok := w.Known(0); k != 1 || !ok {
+			t.Error(n, k, ok)
+		}
+		for _, r := range []api.Reply{{}, {}, {A: n, B: n}, {L: got(0, rec(1, 1, 1))}} {
+			hear(t, w, r)
+		}
+		at(t, w, api.PhaseAdd, api.Ask{Kind: api.AskAdd, PID: 1, Epoch: n, Parts: bit + 1<<5})
+		hear(t, w, api.Reply{A: n, B: n})
+		if a, _ := w.Ask(); w.Phase() != api.PhasePut || a.Kind != api.AskPut || a.B.Epoch != n || len(a.B.L) != 2 {
+			t.Error(n, w.Phase(), a)
+		}
+	}
+}
+
+// TestGeneration: the generation of a reply to a join is that of the beats that may follow.
+func TestGeneration(t *testing.T) {
+	for _, n := range []int{-1, 0, api.MaxNum + 1, math.MaxInt, math.MinInt} {
+		w := to(t, api.PhaseBeat)
+		hear(t, w, api.Reply{Err: api.ErrMember})
+		hear(t, w, api.Reply{A: 8, B: n})
+		for _, r := range []api.Reply{{A: 1}, {A: n, Nums: []int{1}}, {Err: api.ErrNone}} {
+			hear(t, w, r)
+		}
+		at(t, w, api.PhaseBeat, api.Ask{Kind: api.AskBeat, Member: 8, Gen: n})
+	}
+}
+
+// TestOffsets: an offset is taken as it is told, and so are the records behind it.
+func TestOffsets(t *testing.T) {
+	for _, n := range []int{-1, -99, 7, api.MaxNum, api.MaxNum + 1, math.MaxInt - 3, math.MinInt} {
+		w := to(t, api.PhaseOffset)
+		hear(t, w, api.Reply{A: n, B: n})
+		at(t, w, api.PhaseRestore, api.Ask{Kind: api.AskFetch, Part: 4, Most: 16, Yes: true})
+		hear(t, w, api.Reply{A: n, B: n})
+		at(t, w, api.PhasePoll, api.Ask{Kind: api.AskFetch, Off: n, Most: 16, Yes: true})
+		if _, k, ok := w.Known(0); k != n || !ok {
+			t.Error(n, k, ok)
+		}
+		hear(t, w, api.Reply{L: append(got(n, rec(1, 1, 1), rec(1, 1, 1)), got(n, rec(1, 1, 1))...)})
+		hear(t, w, api.Reply{})
+		hear(t, w, api.Reply{})
+		at(t, w, api.PhaseCommit, api.Ask{Kind: api.AskCommit, PID: 1, Epoch: 1, Member: 1, Gen: 1, From: n, Off: n + 2})
+		hear(t, w, api.Reply{})
+		hear(t, w, api.Reply{A: 2})
+		if _, k, ok := w.Known(0); k != n+2 || !ok {
+			t.Error(n, k, ok)
+		}
+	}
+	// Behind the greatest integer there is no offset.
+	w := to(t, api.PhaseOffset)
+	for _, r := range []api.Reply{{A: math.MaxInt}, {}, {L: append(got(math.MaxInt, rec(1, 1, 1)), got(math.MinInt, rec(2, 1, 1))...)}, {}} {
+		hear(t, w, r)
+	}
+	if a, _ := w.Ask(); w.Phase() != api.PhasePut || len(a.B.L) != 2 {
+		t.Error(w.Phase(), a)
+	}
+}
+
+// TestReadsOn: a changelog is read on from where the reply says, if that is between its offset and its end.
+func TestReadsOn(t *testing.T) {
+	for _, x := range []struct {
+		a, b int
+		on   bool
+	}{
+		{1, 2, true}, {1, 1, false}, {0, 9, false}, {-1, 9, false}, {2, 1, false}, {api.MaxNum, api.MaxNum + 1, true}, {api.MaxNum + 1, api.MaxNum + 2, true},
+		{math.MaxInt - 1, math.MaxInt, true}, {math.MaxInt, math.MaxInt, false}, {math.MinInt, math.MaxInt, false}, {1, math.MinInt, false},
+	} {
+		w := to(t, api.PhaseRestore)
+		hear(t, w, api.Reply{A: x.a, B: x.b})
+		if x.on {
+			at(t, w, api.PhaseRestore, api.Ask{Kind: api.AskFetch, Part: 4, Off: x.a, Most: 16, Yes: true})
+		} else {
+			at(t, w, api.PhasePoll, api.Ask{Kind: api.AskFetch, Most: 16, Yes: true})
+		}
+	}
+}
+
+// replies makes replies of some numbers.
+func replies(r *rand.Rand, a api.Ask, some func() int) api.Reply {
+	x := api.Reply{ID: a.ID, A: some(), B: some(), Nums: []int{some(), 0, some()}}
+	if r.Intn(12) == 0 {
+		x.Err = api.Errno(r.Intn(20) - 2)
+	}
+	if a.Kind == api.AskFetch && a.Part < 2 {
+		for k := range r.Intn(30) {
+			x.L = append(x.L, api.Got{Off: a.Off + k, R: rec(r.Intn(9), r.Intn(40), r.Intn(300))})
+		}
+		if r.Intn(4) == 0 {
+			x.L = append(x.L, api.Got{Off: a.Off + len(x.L), R: rec(some(), some(), some())})
+		}
+	}
+	return x
+}
+
+// TestValid: whatever a worker hears of a broker, whose epochs are not 0 and whose records are below MaxNum, its requests may be.
 func TestValid(t *testing.T) {
 	r := rand.New(rand.NewSource(1))
-	odd := []int{0, 0, 1, 1, 2, 3, 4, 5, 7, -1, api.MaxNum - 1, api.MaxNum, api.MaxNum + 1, math.MaxInt, math.MinInt}
-	some := func(n int) int { return odd[r.Intn(min(n, len(odd)))] }
+	odd := []int{0, 0, 1, 1, 2, 3, 4, 5, 7, api.MaxNum - 40, api.MaxNum - 1, api.MaxNum}
 	reached := map[int]int{}
 	for round := range 3000 {
 		c := config()
 		c.Most = 64
 		w := fresh(t, 1, c, r.Intn(2)*(api.MaxNum-40))
-		n := 4 + round%12
+		n := 4 + round%9
+		some := func() int { return odd[r.Intn(n)] }
 		for range 60 {
 			a, ok := w.Ask()
 			if !ok {
@@ -503,19 +618,37 @@ func TestValid(t *testing.T) {
 				t.Fatal(a, e)
 			}
 			reached[w.Phase()]++
-			x := api.Reply{ID: a.ID, A: some(n), B: some(n), Nums: []int{some(n), 0, some(n)}}
-			if r.Intn(12) == 0 {
-				x.Err = api.Errno(r.Intn(20) - 2)
+			x := replies(r, a, some)
+			if w.Phase() == api.PhaseInit || w.Phase() == api.PhaseEnd {
+				x.A = max(x.A, 1)
 			}
-			if a.Kind == api.AskFetch && a.Part < 2 {
-				for k := range r.Intn(30) {
-					x.L = append(x.L, api.Got{Off: a.Off + k, R: rec(r.Intn(9), r.Intn(40), r.Intn(300))})
-				}
-				if r.Intn(4) == 0 {
-					x.L = append(x.L, api.Got{Off: a.Off + len(x.L), R: rec(some(n), some(n), some(n))})
-				}
-			}
+			x.L = slices.DeleteFunc(x.L, func(g api.Got) bool { return g.Off >= api.MaxNum })
 			w.Hear(x)
+		}
+	}
+	for phase := api.PhaseJoin; phase <= api.PhaseBeat; phase++ {
+		if reached[phase] < 100 {
+			t.Error(phase, reached[phase])
+		}
+	}
+}
+
+// TestAny: whatever a worker hears, it goes on, and its requests are those of its phases.
+func TestAny(t *testing.T) {
+	kinds := []int{0, api.AskJoin, api.AskInit, api.AskSync, api.AskOffset, api.AskFetch, api.AskFetch, api.AskAdd, api.AskPut, api.AskCommit, api.AskEnd, api.AskBeat}
+	r := rand.New(rand.NewSource(2))
+	odd := []int{0, 1, 2, 3, -1, api.MaxNum, api.MaxNum + 1, math.MaxInt, math.MaxInt - 2, math.MinInt}
+	some := func() int { return odd[r.Intn(len(odd))] }
+	reached := map[int]int{}
+	for range 3000 {
+		w := fresh(t, 1, config(), 0)
+		for range 60 {
+			a, ok := w.Ask()
+			if !ok || a.Kind != kinds[w.Phase()] {
+				t.Fatal(w.Phase(), a, ok)
+			}
+			reached[w.Phase()]++
+			w.Hear(replies(r, a, some))
 		}
 	}
 	for phase := api.PhaseJoin; phase <= api.PhaseBeat; phase++ {
