@@ -182,6 +182,26 @@ func TestLeave(t *testing.T) {
 	do(t, x, api.ErrDown, api.StepDeliver, 0)
 }
 
+// TestNoBytes: a request that may not be, since its worker heard numbers that no broker gives, is not sent.
+func TestNoBytes(t *testing.T) {
+	x := fresh(t, config())
+	for n := 1; n <= 2; n++ {
+		w := x.Worker(n)
+		a, _ := w.Ask()
+		w.Hear(api.Reply{ID: a.ID, A: -1, B: 1})
+		w.Hear(api.Reply{ID: a.ID + 1, A: 1})
+	}
+	do(t, x, api.ErrArg, api.StepServe, 1)
+	do(t, x, api.ErrArg, api.StepLeave, 2)
+	if !x.Up(1) || x.Up(2) || len(x.Packets()) != 0 {
+		t.Error(x.Up(1), x.Up(2), x.Packets())
+	}
+	input(t, x, 0, rec(1, 1, 1))
+	if k, ok := x.Rest(50); k == 0 || !ok || !x.Up(2) {
+		t.Error(k, ok) // the other worker does it all
+	}
+}
+
 func TestMailFull(t *testing.T) {
 	x := fresh(t, config())
 	for range api.MaxMail {
